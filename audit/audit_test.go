@@ -61,12 +61,13 @@ func TestFaithful(t *testing.T) {
 	other[3].At = 9
 	missing := written(9)
 	missing[1].At, missing[5].At = 77, 77 // these are in gaps
+	both := logOf(t, of(1, 0, 0, 2), of(2, 0, 0, 3))
 	for i, c := range []struct {
 		l       api.Log
 		thread  int
 		written []api.Event
 		want    bool
-	}{{l, 1, written(8), true}, {l, 1, written(20), true}, {l, 1, written(7), false}, {l, 1, nil, false}, {l, 1, other, false}, {l, 1, missing, true}, {l, 2, nil, true}, {l, 3, nil, false}, {api.Log{}, 1, nil, false}} {
+	}{{both, 2, written(3), true}, {both, 2, written(2), false}, {l, 1, written(8), true}, {l, 1, written(20), true}, {l, 1, written(7), false}, {l, 1, nil, false}, {l, 1, other, false}, {l, 1, missing, true}, {l, 2, nil, true}, {l, 3, nil, false}, {api.Log{}, 1, nil, false}} {
 		if Faithful(c.l, c.thread, c.written) != c.want {
 			t.Error(i)
 		}

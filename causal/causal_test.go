@@ -108,7 +108,7 @@ func TestDefinition(t *testing.T) {
 		checkEdges(t, l)
 		ids := log.Ids(l)
 		if !ok {
-			if _, err := Before(l, ids[0], id(0, 99)); err != api.ErrCause {
+			if b, err := Before(l, ids[0], id(0, 99)); b || err != api.ErrCause {
 				t.Fatal(err)
 			}
 			if _, err := Vector(l, id(0, 99)); err != api.ErrCause {

@@ -74,6 +74,36 @@ func TestEvent(t *testing.T) {
 	}
 }
 
+func TestThreads(t *testing.T) {
+	for _, id := range []int{0, api.MaxInt} {
+		if got, _, err := Event(eventObject(id, api.Event{Kind: api.KEnd})); got != id || err != api.OK {
+			t.Error(id, got, err)
+		}
+	}
+}
+
+// A text of MaxText bytes is exported.
+func TestLongest(t *testing.T) {
+	l := api.Log{Head: api.Head{Threads: []api.Thread{{Id: 3, Name: "y"}}, Domains: []api.Domain{{}}}, Parts: []api.Packet{{Thread: 3}}}
+	add := func(n int) {
+		l.Parts[0].Events = append(l.Parts[0].Events, api.Event{Kind: api.KMark, Name: strings.Repeat("x", n)})
+	}
+	mark := len(`,{"ph":"i","tid":3,"name":"","ts":0}`)
+	rest := api.MaxText - len(`[{"ph":"M","tid":3,"name":"y"}]`)
+	for ; rest >= 2*(mark+39); rest -= mark + 39 {
+		add(39)
+	}
+	add(rest/2 - mark)
+	add(rest - rest/2 - mark)
+	if s, err := Export(l); len(s) != api.MaxText || err != api.OK {
+		t.Error(len(s), err)
+	}
+	l.Parts[0].Events[0].Name += "x"
+	if s, err := Export(l); s != "" || err != api.ErrLong {
+		t.Error(len(s), err)
+	}
+}
+
 func TestEventErrors(t *testing.T) {
 	for s, want := range map[string]api.Errno{
 		`1`: api.ErrForm, `[]`: api.ErrForm, `{}`: api.ErrForm, `null`: api.ErrForm,

@@ -43,7 +43,7 @@ func TestCheck(t *testing.T) {
 		{two, []api.Snap{snap(1, -1, 1, 5, 4)}, api.ErrArg},
 		{two, []api.Snap{snap(1, -1, 0, 0, 0)}, api.ErrRange}, {two, []api.Snap{snap(1, api.MaxTime+1, 0, 0, 0)}, api.ErrRange},
 		{two, []api.Snap{snap(1, 0, 0, -1, 0)}, api.ErrRange}, {two, []api.Snap{snap(1, 0, 0, 0, api.MaxTime+1)}, api.ErrRange},
-		{two, []api.Snap{snap(1, 0, 0, 5, 4)}, api.ErrRange}, {two, []api.Snap{snap(0, api.MaxTime, 1, 0, api.MaxTime)}, api.OK},
+		{two, []api.Snap{snap(1, 0, 0, 5, 4)}, api.ErrRange}, {two, []api.Snap{snap(0, api.MaxTime, 1, 0, api.MaxTime)}, api.OK}, {two, []api.Snap{snap(0, 0, 1, 7, 7)}, api.OK},
 	} {
 		if err := Check(c.d, c.l); err != c.err {
 			t.Error(i, err)

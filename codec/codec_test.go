@@ -126,6 +126,9 @@ func TestTexts(t *testing.T) {
 		if got, n, err := Text(b, len(s)-1); got != "" || n != 0 || err != api.ErrLong {
 			t.Error(s, got, n, err)
 		}
+		if got, n, err := Text(b[:len(b)-2], len(s)); got != s || n != len(b)-2 || err != api.OK {
+			t.Error("nothing follows", s, got, n, err)
+		}
 		for i := range len(b) - 2 {
 			if _, _, err := Text(b[:i], len(s)); err != api.ErrShort {
 				t.Error(s, i, err)

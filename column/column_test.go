@@ -165,6 +165,9 @@ func TestEqualValues(t *testing.T) {
 		for _, n := range []int{1, 2, 100, api.MaxRows} {
 			k := max(v.Kind, api.VBool)
 			p, err := Encode(k, slices.Repeat([]api.Value{v}, n))
+			if l, err := Decode(p); len(l) != n || err != api.OK {
+				t.Error(v, n, len(l), err)
+			}
 			if err != api.OK || len(p.Bytes) > len(valueBytes(nil, v))+4 {
 				t.Error(v, n, len(p.Bytes), err)
 			}

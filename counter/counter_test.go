@@ -101,6 +101,19 @@ func TestDefinition(t *testing.T) {
 	}
 }
 
+func TestEnds(t *testing.T) {
+	l := []api.Step{step("c", 2, 5), step("c", 4, 1), step("c", 7, 5)}
+	if p, ok := Peak(l, "c"); p != l[0] || !ok {
+		t.Error(p)
+	}
+	if n, ok := Integral(l, "c", api.Span{From: api.MaxTime - 2, To: api.MaxTime}); n != 10 || !ok {
+		t.Error(n, ok)
+	}
+	if n, ok := Integral(l, "c", api.Span{From: 3, To: 7}); n != 8 || !ok {
+		t.Error(n, ok)
+	}
+}
+
 func TestExamples(t *testing.T) {
 	l := []api.Step{step("c", 2, 1), step("c", 4, 3)}
 	if n, ok := Integral(l, "c", api.Span{From: 0, To: 6}); n != 8 || !ok {

@@ -80,7 +80,7 @@ func TestApplyErrors(t *testing.T) {
 	}{
 		{bad, changes(1, 0), api.ErrForm}, {of(), []api.Change{{N: 1}}, api.ErrForm}, {of(), changes(1, 0), api.ErrForm}, {of(), changes(1, api.MaxRows+1), api.ErrForm}, {of(), changes(1, -api.MaxRows-1), api.ErrForm}, {of(), changes(2, 1, 1, 1), api.ErrForm}, {of(), changes(1, 1, 1, 1), api.ErrForm},
 		{of(), word, api.ErrType}, {of(), append(changes(5, -1), word...), api.ErrType}, {of(), changes(api.MaxInt+1, 0), api.ErrForm}, {of(), changes(api.MaxInt+1, 1), api.ErrRange},
-		{of(1), changes(1, -2), api.ErrNone}, {of(1), changes(1, -1, 2, -1), api.ErrNone}, {of(1), changes(1, api.MaxRows, 2, -1), api.ErrNone}, {of(1), changes(1, api.MaxRows), api.ErrLong}, {of(1), changes(1, api.MaxRows-1), api.OK}, {of(), changes(1, api.MaxRows), api.OK}, {of(1, 2), changes(1, -1, 2, -1), api.OK},
+		{of(1), changes(1, -2), api.ErrNone}, {of(1), changes(1, -1, 2, -1), api.ErrNone}, {of(1), changes(1, api.MaxRows, 2, -1), api.ErrNone}, {of(1), changes(1, api.MaxRows), api.ErrLong}, {of(1), changes(1, api.MaxRows-1), api.OK}, {of(), changes(1, api.MaxRows), api.OK}, {of(1, 2), changes(1, -1, 2, -1), api.OK}, {of(make([]int, api.MaxRows)...), changes(0, -api.MaxRows), api.OK},
 	} {
 		if got, err := Apply(c.t, c.l); err != c.err || err != api.OK && !table.Same(got, api.Table{}) {
 			t.Error(i, err)

@@ -191,8 +191,10 @@ func TestLong(t *testing.T) {
 	b.Rows = slices.Repeat([][]api.Value{{integer(1), integer(2)}}, 141)
 	c := of("from to v")
 	c.Rows = slices.Repeat([][]api.Value{{integer(3), integer(5), integer(2)}}, 141)
-	d := []api.Named{{Name: "a", Table: a}, {Name: "b", Table: b}, {Name: "c", Table: c}}
-	for s, want := range map[string]api.Errno{"from a | join b on n | limit 1": api.ErrLong, "from a | overlap c | limit 1": api.ErrLong, "from a | limit 140 | join b on n": api.OK, "from a | limit 140 | overlap c": api.OK} {
+	e := b
+	e.Rows = slices.Repeat(b.Rows[:1], 200)
+	d := []api.Named{{Name: "a", Table: a}, {Name: "b", Table: b}, {Name: "c", Table: c}, {Name: "e", Table: e}}
+	for s, want := range map[string]api.Errno{"from a | join b on n | limit 1": api.ErrLong, "from a | overlap c | limit 1": api.ErrLong, "from a | limit 140 | join b on n": api.OK, "from a | limit 140 | overlap c": api.OK, "from a | limit 100 | join e on n": api.OK} {
 		got, err := Query(d, query(t, s))
 		if n, other := naive.Run(d, query(t, s)); err != want || other != want || !table.Same(got, n) {
 			t.Error(s, err, other)

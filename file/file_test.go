@@ -61,7 +61,7 @@ func TestHead(t *testing.T) {
 	}{
 		{func(h *api.Head) {}, api.OK},
 		{func(h *api.Head) { *h = api.Head{} }, api.ErrShort},
-		{func(h *api.Head) { *h = many }, api.ErrLong},
+		{func(h *api.Head) { *h = many }, api.ErrLong}, {func(h *api.Head) { *h = many; h.Threads = many.Threads[:64] }, api.OK},
 		{func(h *api.Head) { h.Threads[0].Id = -1 }, api.ErrRange},
 		{func(h *api.Head) { h.Threads[1].Name = "" }, api.ErrName},
 		{func(h *api.Head) { h.Threads[1].Id = 1; h.Domains = nil }, api.ErrTwice},

@@ -64,7 +64,7 @@ func TestPrint(t *testing.T) {
 	}{
 		{[]api.Sample{{Weight: 1}}, api.ErrArg}, {[]api.Sample{of("a", 0)}, api.ErrArg}, {[]api.Sample{of("a", api.MaxTime+1)}, api.ErrArg}, {[]api.Sample{of(" ", 0)}, api.ErrArg},
 		{[]api.Sample{of(" ", 1), of("a", 0)}, api.ErrName}, {[]api.Sample{of("a", 0), of(" ", 1)}, api.ErrArg}, {[]api.Sample{of(strings.Repeat("a;", 32)+"a", 1)}, api.ErrLong},
-		{[]api.Sample{of("a", api.MaxTime), of("a", 1)}, api.ErrRange}, {[]api.Sample{of("a", api.MaxTime), of("a", 1), of("a", 0)}, api.ErrArg},
+		{[]api.Sample{of("a", api.MaxTime), of("a", 1)}, api.ErrRange}, {[]api.Sample{of("a", api.MaxTime-1), of("a", 1)}, api.OK}, {[]api.Sample{of("a", api.MaxTime), of("a", 1), of("a", 0)}, api.ErrArg},
 		{[]api.Sample{{Thread: -1, At: -1, Weight: 1, Stack: []string{"a"}}}, api.OK},
 	} {
 		if s, err := Print(c.l); err != c.err || err != api.OK && s != "" {

@@ -4,6 +4,7 @@ import (
 	"math"
 	"math/rand"
 	"slices"
+	"strconv"
 	"strings"
 	"testing"
 
@@ -62,6 +63,42 @@ func TestCheck(t *testing.T) {
 		if s, err := Print(c.h); c.err != api.OK && (s != "" || err != c.err) {
 			t.Error(i, err)
 		}
+	}
+}
+
+// allRoots returns a heap in which all objects are roots.
+func allRoots() api.Heap {
+	h := many(api.MaxObjects, 0)
+	for i := range h.Objects {
+		h.Roots = append(h.Roots, i)
+	}
+	return h
+}
+
+// A text of MaxText bytes is printed and read, one of a byte more is not printed.
+func TestLimits(t *testing.T) {
+	if err := Check(allRoots()); err != api.OK {
+		t.Error(err)
+	}
+	h := many(4000, 0)
+	size := func() int {
+		n := 0
+		for _, o := range h.Objects {
+			n += len("obj   node\n") + len(strconv.Itoa(o.Id)) + len(strconv.Itoa(o.Size))
+		}
+		return n
+	}
+	for i := 0; size() < api.MaxText; i++ {
+		h.Objects[i].Size = 10
+	}
+	if s, err := Print(h); len(s) != api.MaxText || err != api.OK {
+		t.Error(len(s), err)
+	} else if got, _, err := Import(s); !same(got, h) || err != api.OK {
+		t.Error(err)
+	}
+	h.Objects[3999].Size = 10
+	if s, err := Print(h); s != "" || err != api.ErrLong {
+		t.Error(len(s), err)
 	}
 }
 

@@ -30,10 +30,11 @@ func TestParse(t *testing.T) {
 		" {\"a\": [null, true, -3], \"b\": \"x\\ty\"} ": object("a b", array(null(), boolean(1), number(-3)), text("x\ty")),
 		"-0": number(0), "0": number(0), "1000000000000000": number(api.MaxInt), "-1000000000000000": number(-api.MaxInt),
 		"\t\r\n false ": boolean(0), "[]": array(), " [ ] ": array(), "{}": object(""), "{ }": object(""), `""`: text(""),
-		`"\"\\\/\n\t\u0041\u000a\u0009\u007E\u007d\u004F"`: text("\"\\/\n\tA\n\t~}O"),
-		"[ 1 , [ 2 ] , {\"k\" : 3 } ]":                     array(number(1), array(number(2)), object("k", number(3))),
-		`{"a":{"a":1}}`:                                    object("a", object("a", number(1))),
-		strings.Repeat("[", 16) + strings.Repeat("]", 16):  nested(16),
+		`"\"\\\/\n\t\u0041\u000a\u0009\u007E\u007d\u004F"`:         text("\"\\/\n\tA\n\t~}O"),
+		`"\u004f\u004a\u004A\u000A\u0020\u0022\u005c\u0030\u0039"`: text("OJJ\n \"\\09"),
+		"[ 1 , [ 2 ] , {\"k\" : 3 } ]":                             array(number(1), array(number(2)), object("k", number(3))),
+		`{"a":{"a":1}}`:                                            object("a", object("a", number(1))),
+		strings.Repeat("[", 16) + strings.Repeat("]", 16):          nested(16),
 	} {
 		got, at, err := Parse(s)
 		if !Same(got, want) || at != 0 || err != api.OK || Check(got) != api.OK {

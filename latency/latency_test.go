@@ -35,7 +35,7 @@ func TestExamples(t *testing.T) {
 	if l := Histogram([]int{0, 1, 2, 3, 8, -1}); !slices.Equal(l, []int{1, 1, 2, 0, 1}) {
 		t.Error(l)
 	}
-	if len(Histogram(nil)) != 0 || len(Histogram([]int{-1, math.MinInt})) != 0 || len(Histogram([]int{math.MaxInt})) != 64 {
+	if len(Histogram(nil)) != 0 || !slices.Equal(Histogram([]int{-1, 1}), []int{0, 1}) || len(Histogram([]int{-1, math.MinInt})) != 0 || len(Histogram([]int{math.MaxInt})) != 64 {
 		t.Error("Histogram")
 	}
 	three := traceOf(3, 20, of(1, api.Ready, 0, 9), of(1, api.Running, 9, 20), of(2, api.Ready, 0, 1), of(2, api.Running, 1, 20), of(3, api.Ready, 0, 4), of(3, api.Running, 4, 20))

@@ -65,6 +65,15 @@ func TestParts(t *testing.T) {
 	}
 }
 
+// Readings of consecutive packets can be equal.
+func TestEqualReadings(t *testing.T) {
+	next := of(5, 1, 0, 1)
+	next.Events[0].At = 0
+	if l, err := Of(head(), []api.Packet{of(5, 0, 0, 1), next}); err != api.OK || len(l.Parts) != 1 {
+		t.Error(l, err)
+	}
+}
+
 func TestCheck(t *testing.T) {
 	good, _ := Of(head(), []api.Packet{of(5, 2, 2, 3), of(2, 0, 0, 1)})
 	split := api.Log{Head: head(), Parts: []api.Packet{of(5, 0, 0, 1), of(5, 1, 0, 1)}}

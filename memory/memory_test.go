@@ -172,3 +172,12 @@ func TestGreat(t *testing.T) {
 		t.Error(at, n)
 	}
 }
+
+// Events of other kinds have no effect, wherever they stand.
+func TestOtherKinds(t *testing.T) {
+	mark := api.Timed{Event: api.Event{Kind: api.KMark, N: 5}, When: api.Interval{Lo: 3, Hi: 3}}
+	l := Of([]api.Timed{mark, alloc(1, 4, 5, 100), mark, free(1, 9, 5)}, 0)
+	if !slices.EqualFunc(l, []api.Block{block(5, 1, 100, 4, 9, false)}, equal) {
+		t.Error(l)
+	}
+}

@@ -217,3 +217,11 @@ func checkLast(t *testing.T, d []api.Named, s string) {
 		}
 	}
 }
+
+// Rows with nulls have no partners, and those behind them still have.
+func TestJoinNulls(t *testing.T) {
+	d := []api.Named{{Name: "a", Table: of("s n", row(nil, 1), row("x", 2), row("y", nil), row("x", 4))}, {Name: "b", Table: of("s v", row(nil, 7), row("x", 8))}}
+	if got := run(t, d, "from a | join b on s"); !table.Same(got, of("s n v", row("x", 2, 8), row("x", 4, 8))) {
+		t.Error(got)
+	}
+}

@@ -167,3 +167,12 @@ func TestText(t *testing.T) {
 		}
 	}
 }
+
+// The product of two numbers can be so much greater than the divisor that the quotient has exactly 65 bits.
+func TestGreatQuotient(t *testing.T) {
+	const high = 54210108624 // MaxInt times MaxInt, divided by 2^64
+	for _, c := range []int{high - 1, high, high + 1, 2 * high} {
+		checkQuotient(t, api.MaxInt, api.MaxInt, c)
+		checkQuotient(t, -api.MaxInt, api.MaxInt, c)
+	}
+}

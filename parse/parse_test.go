@@ -35,7 +35,7 @@ func TestExpr(t *testing.T) {
 		"a - b - c": binary(api.ESub, binary(api.ESub, a, b), c), "a - (b - c)": binary(api.ESub, a, binary(api.ESub, b, c)), "a / b * c % 2": binary(api.EMod, binary(api.EMul, binary(api.EDiv, a, b), c), integer(2)), "a - -b": binary(api.ESub, a, neg(b)), "-a * b": binary(api.EMul, neg(a), b), "a--b": binary(api.ESub, a, neg(b)),
 		"a > b": binary(api.ELt, b, a), "a >= b": binary(api.ELe, b, a), "a < b": binary(api.ELt, a, b), "a <= b": binary(api.ELe, a, b), "a != b": binary(api.ENe, a, b), "a=b": binary(api.EEq, a, b), "a>=b": binary(api.ELe, b, a), "(a < b) < c": binary(api.ELt, binary(api.ELt, a, b), c), "a + b > c": binary(api.ELt, c, binary(api.EAdd, a, b)),
 		"null": constant(api.Value{}), "true": constant(api.Value{Kind: api.VBool, N: 1}), "false": constant(api.Value{Kind: api.VBool}), `"a ~'"`: text("a ~'"), `""`: text(""), "1000000000000000": integer(api.MaxInt),
-		"from": field("from"), "where": field("where"), "desc": field("desc"), "nulls": field("nulls"), "a_1": field("a_1"), "min(a, b + 1)": call("min", a, binary(api.EAdd, b, integer(1))), "abs ( a )": call("abs", a), "len((a))": call("len", a), "starts(a,not b)": call("starts", a, not(b)),
+		"from": field("from"), "where": field("where"), "desc": field("desc"), "nulls": field("nulls"), "a_1": field("a_1"), "z9z": field("z9z"), "min(a, b + 1)": call("min", a, binary(api.EAdd, b, integer(1))), "abs ( a )": call("abs", a), "len((a))": call("len", a), "starts(a,not b)": call("starts", a, not(b)),
 		" \t\r\na ": a,
 	} {
 		e, at, err := Expr(s)

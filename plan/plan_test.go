@@ -120,6 +120,10 @@ func TestFormed(t *testing.T) {
 	named.Table = "a"
 	bound := around(api.PStep, limit, scan("", 0, 0))
 	bound.High = 1
+	column := around(api.PStep, limit, scan("", 0, 0))
+	column.Col = "k"
+	low := around(api.PStep, limit, scan("", 0, 0))
+	low.Low = 1
 	two := around(api.PStep, limit, scan("", 0, 0))
 	two.Kids = append(two.Kids, two.Kids[0])
 	for i, c := range []struct {
@@ -128,7 +132,7 @@ func TestFormed(t *testing.T) {
 	}{
 		{scan("", 0, 0), api.OK}, {scan("k", -api.MaxInt, api.MaxInt), api.OK}, {scan("k", 1, 0), api.OK}, {scan("k", 5, 5), api.OK}, {around(api.PStep, limit, scan("k", 0, 5)), api.OK}, {around(api.PHash, join, scan("", 0, 0)), api.OK}, {around(api.PStep, join, scan("", 0, 0)), api.OK},
 		{api.Plan{}, api.ErrArg}, {api.Plan{Op: 6}, api.ErrArg}, {api.Plan{Op: api.PStep}, api.ErrArg}, {scan("", 1, 0), api.ErrArg}, {scan("", 0, 1), api.ErrArg}, {scan("k", 2, 1), api.ErrArg}, {scan("k", 2, 0), api.ErrArg}, {scan("k", -api.MaxInt-1, 0), api.ErrArg}, {scan("k", 0, api.MaxInt+1), api.ErrArg}, {scan("k", math.MinInt, math.MaxInt), api.ErrArg},
-		{full, api.ErrArg}, {stepped, api.ErrArg}, {condition, api.ErrArg}, {named, api.ErrArg}, {bound, api.ErrArg}, {two, api.ErrArg}, {around(api.PStep, limit, api.Plan{}), api.ErrArg}, {around(api.PStep, limit, scan("k", 2, 1)), api.ErrArg},
+		{full, api.ErrArg}, {stepped, api.ErrArg}, {condition, api.ErrArg}, {named, api.ErrArg}, {column, api.ErrArg}, {low, api.ErrArg}, {bound, api.ErrArg}, {two, api.ErrArg}, {around(api.PStep, limit, api.Plan{}), api.ErrArg}, {around(api.PStep, limit, scan("k", 2, 1)), api.ErrArg},
 		{around(api.PSpans, join, scan("", 0, 0)), api.ErrArg}, {around(api.PMerge, join, scan("", 0, 0)), api.ErrArg}, {around(api.PHash, limit, scan("", 0, 0)), api.ErrArg}, {around(9, limit, scan("", 0, 0)), api.ErrArg},
 	} {
 		_, err := Check(database(), c.p)

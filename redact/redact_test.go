@@ -28,7 +28,7 @@ func TestCheck(t *testing.T) {
 		err api.Errno
 	}{
 		{nil, api.OK}, {rules("thread a keep", "slice * hide", "frame b drop", "counter * drop"), api.OK}, {slices.Repeat(rules("thread a keep"), 40), api.OK}, {slices.Repeat(rules("x a keep"), 41), api.ErrLong},
-		{rules("threads a keep"), api.ErrArg}, {rules("thread a kept"), api.ErrArg}, {[]api.Rule{{}}, api.ErrArg}, {[]api.Rule{{What: "thread", Prefix: " "}}, api.ErrArg}, {[]api.Rule{{What: "thread", Prefix: " ", Action: "keep"}}, api.ErrName}, {[]api.Rule{{What: "thread", Prefix: strings.Repeat("a", 41), Action: "keep"}, {}}, api.ErrName},
+		{rules("threads a keep"), api.ErrArg}, {append(rules("thread * keep"), api.Rule{}), api.ErrArg}, {rules("thread a kept"), api.ErrArg}, {[]api.Rule{{}}, api.ErrArg}, {[]api.Rule{{What: "thread", Prefix: " "}}, api.ErrArg}, {[]api.Rule{{What: "thread", Prefix: " ", Action: "keep"}}, api.ErrName}, {[]api.Rule{{What: "thread", Prefix: strings.Repeat("a", 41), Action: "keep"}, {}}, api.ErrName},
 	} {
 		if err := Check(c.l); err != c.err {
 			t.Error(i, err)

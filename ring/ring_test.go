@@ -205,6 +205,19 @@ func TestCheck(t *testing.T) {
 	}
 }
 
+func TestLongestRecordInRing(t *testing.T) {
+	b := append(codec.PutInt(nil, api.MaxRecord), make([]byte, api.MaxRecord)...)
+	r := api.Ring{Policy: api.Stall, Data: make([]byte, 4000), End: len(b), Next: 1}
+	copy(r.Data, b)
+	if Check(r) != api.OK || Count(r) != 1 {
+		t.Error("a record of MaxRecord bytes")
+	}
+	empty := api.Ring{Policy: api.Stall, Data: make([]byte, 16), Start: api.MaxInt, End: api.MaxInt}
+	if Check(empty) != api.OK {
+		t.Error("the greatest position")
+	}
+}
+
 func TestLongRecordInRing(t *testing.T) {
 	b := append(codec.PutInt(nil, api.MaxRecord+1), make([]byte, api.MaxRecord+1)...)
 	r := api.Ring{Policy: api.Stall, Data: make([]byte, 4000), End: len(b), Next: 1}

@@ -40,7 +40,7 @@ func TestCheck(t *testing.T) {
 	}{
 		{nil, api.OK}, {[]api.Sample{of(5, 1, ""), of(5, api.MaxTime, "a"), of(api.MaxTime, 1, "a")}, api.OK}, {[]api.Sample{of(5, 1, ""), of(4, 1, "")}, api.ErrOrder},
 		{[]api.Sample{of(5, 1, ""), of(4, 0, "")}, api.ErrRange}, {[]api.Sample{of(5, 1, ""), of(4, 1, "a\x01")}, api.ErrName}, {[]api.Sample{of(-1, 1, "\x01")}, api.ErrRange}, {[]api.Sample{of(api.MaxTime+1, 1, "")}, api.ErrRange}, {[]api.Sample{of(1, api.MaxTime+1, "")}, api.ErrRange},
-		{[]api.Sample{of(1, 1, strings.Repeat("a ", 33))}, api.ErrLong}, {[]api.Sample{{Thread: -1, Weight: 1}}, api.ErrRange}, {[]api.Sample{{Thread: api.MaxInt + 1, Weight: 1}}, api.ErrRange}, {[]api.Sample{{Thread: api.MaxInt, Weight: 1}}, api.OK},
+		{[]api.Sample{of(1, 1, strings.Repeat("a ", 33))}, api.ErrLong}, {[]api.Sample{{Thread: -1, Weight: 1}}, api.ErrRange}, {[]api.Sample{{Thread: api.MaxInt + 1, Weight: 1}}, api.ErrRange}, {[]api.Sample{{Thread: api.MaxInt, Weight: 1}}, api.OK}, {[]api.Sample{{Weight: 1}}, api.OK},
 	} {
 		if err := Check(c.l); err != c.err {
 			t.Error(i, err)

@@ -235,7 +235,7 @@ func TestCheckErrors(t *testing.T) {
 		l   []api.Slice
 		err api.Errno
 	}{
-		{nil, api.OK}, {[]api.Slice{a}, api.OK},
+		{nil, api.OK}, {[]api.Slice{a}, api.OK}, {[]api.Slice{of(api.MaxInt, -1, 0, "a", 0, 10, 10, false)}, api.OK}, {[]api.Slice{of(0, -1, 0, "a", 0, 10, 10, false)}, api.OK},
 		{[]api.Slice{of(-1, -1, 0, "", 0, 10, 10, false)}, api.ErrRange}, {[]api.Slice{of(api.MaxInt+1, -1, 0, "a", 0, 10, 10, false)}, api.ErrRange},
 		{[]api.Slice{of(1, -1, 0, "", 5, 5, 0, false)}, api.ErrRange}, {[]api.Slice{of(1, -1, 0, "a", math.MinInt, math.MaxInt, 0, false)}, api.ErrRange},
 		{[]api.Slice{of(1, 5, 0, "", 0, 10, 10, false)}, api.ErrName}, {[]api.Slice{a, of(1, -1, 0, "", 0, 10, 10, false), of(-1, -1, 0, "a", 0, 10, 10, false)}, api.ErrName},

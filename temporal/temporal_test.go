@@ -206,3 +206,20 @@ func checkCoalesce(t *testing.T, a api.Table) {
 		}
 	}
 }
+
+// The rows of the second table can be in any order, and empty spans are none.
+func TestAnyOrder(t *testing.T) {
+	b := of("from v", row(9, 1), row(nil, 2), row(3, 3), row(8, 4), row(5, 5), row(2, 6))
+	got, err := Nearest(of("from", row(7), row(2), row(20)), b, nil)
+	if !table.Same(got, of("from v", row(7, 5), row(2, 6), row(20, 1))) || err != api.OK {
+		t.Error(got, err)
+	}
+	first := of("from v s", row(1, 1, "a"), row(5, 2, "b"), row(3, 3, "a"))
+	got, err = Nearest(of("from s", row(9, "a")), first, []string{"s"})
+	if !table.Same(got, of("from s v", row(9, "a", 3))) || err != api.OK {
+		t.Error(got, err)
+	}
+	if got, err := Coalesce(of("from to", row(4, 4), row(1, 2), row(8, 7)), nil); !table.Same(got, of("from to", row(1, 2))) || err != api.OK {
+		t.Error(got, err)
+	}
+}

@@ -138,7 +138,7 @@ func (c cutter) steps(l []api.Step) []api.Step {
 		if s.At <= c.common.From && isLast {
 			s.At = 0
 			cut = append(cut, s)
-		} else if at, ok := c.time(s.At); ok && at > 0 {
+		} else if at, ok := c.time(s.At); ok {
 			s.At = at
 			cut = append(cut, s)
 		}

@@ -315,7 +315,7 @@ func TestCheck(t *testing.T) {
 		{func(t *api.Trace) { t.Samples[0].Weight = 0; t.Samples[0].Thread = 9 }, api.ErrRange}, {func(t *api.Trace) { t.Samples[0].Thread = 9; t.Steps[0].Name = "" }, api.ErrNone},
 		{func(t *api.Trace) { t.Steps[0].Name = ""; t.Blocks[0].Thread = 9 }, api.ErrName},
 		{func(t *api.Trace) { t.Blocks[0].Size = 0; t.Blocks[0].Thread = 9 }, api.ErrRange}, {func(t *api.Trace) { t.Blocks[0].Thread = 9; t.Lost[0].Count = 0 }, api.ErrNone},
-		{func(t *api.Trace) { t.Lost[0].Thread = 9; t.Lost[0].Count = 0 }, api.ErrNone}, {func(t *api.Trace) { t.Lost[0].Count = 0; t.Span.To = 5 }, api.ErrRange}, {func(t *api.Trace) { t.Lost[0].Count = api.MaxInt + 1 }, api.ErrRange}, {func(t *api.Trace) { t.Lost[0].Span.To = 0 }, api.ErrRange},
+		{func(t *api.Trace) { t.Lost[0].Thread = 9; t.Lost[0].Count = 0 }, api.ErrNone}, {func(t *api.Trace) { t.Lost[0].Count = 0; t.Span.To = 5 }, api.ErrRange}, {func(t *api.Trace) { t.Lost[0].Count = api.MaxInt + 1 }, api.ErrRange}, {func(t *api.Trace) { t.Lost[0].Count = api.MaxInt }, api.OK}, {func(t *api.Trace) { t.Lost[0].Span.To = 0 }, api.ErrRange},
 		{func(t *api.Trace) { t.Span.From = -1 }, api.ErrRange}, {func(t *api.Trace) { t.Span = api.Span{From: 11, To: 10} }, api.ErrRange}, {func(t *api.Trace) { t.Span.To = api.MaxTime + 1 }, api.ErrRange}, {func(t *api.Trace) { t.Span = api.Span{From: math.MaxInt, To: math.MinInt} }, api.ErrRange},
 		{func(t *api.Trace) { t.Span.To = 9 }, api.ErrForm}, {func(t *api.Trace) { t.Span.From = 1 }, api.ErrForm}, {func(t *api.Trace) { t.Span.To = api.MaxTime }, api.OK},
 		{func(t *api.Trace) { t.Flows[0].Recv = 10 }, api.ErrForm}, {func(t *api.Trace) { t.Samples[0].At = 10 }, api.ErrForm}, {func(t *api.Trace) { t.Steps[0].At = 10 }, api.ErrForm}, {func(t *api.Trace) { t.Blocks[0].Span.To = 11 }, api.ErrForm}, {func(t *api.Trace) { t.Slices[0].Span.To, t.Slices[0].Self = 11, 11 }, api.ErrForm},
@@ -339,6 +339,12 @@ func TestSame(t *testing.T) {
 		change(&b)
 		if Same(a, b) || Same(b, a) || !Same(b, b) {
 			t.Error(i)
+		}
+	}
+	for i, bad := range []api.Trace{{Threads: head().Threads, States: full().States}, {Threads: head().Threads, Blocks: full().Blocks}} {
+		bad.Span.To = 9
+		if Check(bad) != api.ErrForm {
+			t.Error("beyond the span", i)
 		}
 	}
 	if !Same(api.Trace{}, api.Trace{Threads: []api.Thread{}, Lost: []api.Loss{}}) {
